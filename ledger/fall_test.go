@@ -196,7 +196,8 @@ func runs() map[string][]doing {
 	}
 }
 
-// 5.5, W2: the drum falls at each turn of a run, with every choice of what is kept, and any of it torn.
+// 5.5, W2: the drum falls at each turn of a run, with every choice of what is kept, and any other Lay torn; and once
+// more at each turn of the Open behind that.
 func TestWhateverFalls(t *testing.T) {
 	for name, steps := range runs() {
 		f := &falls{t: t, told: map[string][][]byte{}, deep: map[string]int{}}
@@ -211,7 +212,6 @@ func TestWhateverFalls(t *testing.T) {
 				broke = d.Broken()
 				return d
 			})
-			n := 0
 			x.each(len(edges), func(left [][]byte) {
 				home := f.openedHome(left)
 				at := slices.IndexFunc(w.states[w.sure:], func(s [][]byte) bool { return same(s, home) })
@@ -219,9 +219,7 @@ func TestWhateverFalls(t *testing.T) {
 					t.Fatalf("%s, %d turns: of %d postings, %d sure: %x", name, after, len(w.states)-1, w.sure, home)
 				}
 				seen[w.sure+at]++
-				if n++; n%31 == 1 {
-					f.again(left, 1)
-				}
+				f.again(left, 1)
 			})
 			if !broke {
 				break
